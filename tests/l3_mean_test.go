@@ -944,6 +944,18 @@ func places[T any](s []T) []any {
 	return out
 }
 
+// checkApart makes sure that no place is there twice.
+func checkApart(t *testing.T, all []any) {
+	t.Helper()
+	seen := map[any]bool{}
+	for _, place := range all {
+		if seen[place] {
+			t.Fatalf("a %T is in two slices", place)
+		}
+		seen[place] = true
+	}
+}
+
 func stmtPlaces(process []impl.Stmt) []any {
 	var out []any
 	for _, one := range slicesOf(process) {
@@ -974,13 +986,7 @@ func TestMeanSharesNoMemory(t *testing.T) {
 		all = slices.Concat(all, worldPlaces(impl.MeanOpen(p)), places(impl.MeanCan(p, picks[:steps])))
 		all = slices.Concat(all, places(impl.SaidBy(w.Said, 0)), places(impl.SaidBy(w.Said, 0)))
 	}
-	seen := map[any]bool{}
-	for _, place := range all {
-		if seen[place] {
-			t.Fatalf("a %T is in two slices", place)
-		}
-		seen[place] = true
-	}
+	checkApart(t, all)
 }
 
 // A result stays as it is when an argument or another result is changed behind the call.

@@ -666,13 +666,7 @@ func TestCodeSharesNoMemory(t *testing.T) {
 	second := impl.CodeOf(process)
 	third, _ := impl.CodeRead(text)
 	fourth, _ := impl.CodeRead(text)
-	seen := map[any]bool{}
-	for _, place := range slices.Concat(places(first), places(second), places(third), places(fourth)) {
-		if seen[place] {
-			t.Fatal("two results share memory")
-		}
-		seen[place] = true
-	}
+	checkApart(t, slices.Concat(places(first), places(second), places(third), places(fourth)))
 	clear(first[:cap(first)])
 	clear(third[:cap(third)])
 	for _, one := range slicesOf(process) {
