@@ -2,6 +2,7 @@ package tests
 
 import (
 	"fmt"
+	"iter"
 	"math"
 	"math/rand/v2"
 	"reflect"
@@ -797,16 +798,28 @@ var lively = [][]string{
 	{"num 0 1 in 1 [ store 0 0 ] load 1 0", "in 1 [ load 0 0 if 0 [ signal 1 ] [ wait 1 ] ]", "in 1 [ signal 1 ]"},
 }
 
+// sequences yields each sequence of so many numbers from 0 up to below base.
+func sequences(length, base int) iter.Seq[[]int] {
+	return func(yield func([]int) bool) {
+		if length == 0 {
+			yield(nil)
+			return
+		}
+		for rest := range sequences(length-1, base) {
+			for first := range base {
+				if !yield(append([]int{first}, rest...)) {
+					return
+				}
+			}
+		}
+	}
+}
+
 // TestAllShortPlays tries every sequence of eight picks of the three processes against the model.
 func TestAllShortPlays(t *testing.T) {
 	for _, texts := range lively {
 		p := program(t, texts...)
-		for i := range 6561 {
-			picks := make([]int, 8)
-			for at := range picks {
-				picks[at] = i % 3
-				i /= 3
-			}
+		for picks := range sequences(8, 3) {
 			checkAgainstModel(t, p, picks)
 			if t.Failed() {
 				t.Fatalf("%q, %v", texts, picks)
@@ -1004,11 +1017,7 @@ func TestMeanResultsStay(t *testing.T) {
 	}
 	clear(second.Procs)
 	clear(second.Said)
-	for _, process := range p {
-		for _, one := range slicesOf(process) {
-			clear(one)
-		}
-	}
+	clearProgram(p)
 	clear(picks)
 	if shown(first) != want || shown(opened) != start || !slices.Equal(codes, fine(len(picks))) {
 		t.Error("a result has changed")
@@ -1018,8 +1027,8 @@ func TestMeanResultsStay(t *testing.T) {
 // roomy returns the slice with something behind its end.
 func roomy[T any](s []T, behind T) []T { return append(slices.Clone(s), behind)[:len(s)] }
 
-func TestMeanChangesNoArgument(t *testing.T) {
-	p, picks := busy(t)
+// roomyProgram returns the program with something behind the end of each of its slices.
+func roomyProgram(p [][]impl.Stmt) [][]impl.Stmt {
 	p = roomy(p, list(say(1)))
 	for i, process := range p {
 		p[i] = roomy(process, num(2, 77))
@@ -1027,6 +1036,21 @@ func TestMeanChangesNoArgument(t *testing.T) {
 			p[i][j].Body, p[i][j].Else = roomy(s.Body, num(2, 78)), roomy(s.Else, num(2, 79))
 		}
 	}
+	return p
+}
+
+// clearProgram makes all statements of a program zero, up to the capacities of their slices.
+func clearProgram(p [][]impl.Stmt) {
+	for _, process := range p {
+		for _, one := range slicesOf(process) {
+			clear(one)
+		}
+	}
+}
+
+func TestMeanChangesNoArgument(t *testing.T) {
+	p, picks := busy(t)
+	p = roomyProgram(p)
 	picks = roomy(picks, 55)
 	said := roomy([]impl.Say{{Who: 0, N: 1}, {Who: 1, N: 2}}, impl.Say{Who: 0, N: 3})
 	a, b := many(), many()

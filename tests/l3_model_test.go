@@ -75,8 +75,8 @@ func (m *model) queue(sign int) []int {
 	return out
 }
 
-func (m *model) step(who int) int {
-	m.clock++
+// code is that of a step, which is not taken.
+func (m *model) code(who int) int {
 	if who < 0 || who >= len(m.procs) {
 		return 3
 	}
@@ -86,14 +86,26 @@ func (m *model) step(who int) int {
 	case p.since > 0, p.back && m.holder(p.room) >= 0:
 		return 2
 	case p.back:
-		p.back, p.inside = false, true
 		return 0
 	case len(todo) == 0:
 		return 1
 	case todo[0].Kind == impl.StmtIn && m.holder(todo[0].A) >= 0:
 		return 2
 	}
-	m.execute(who, p, p.pop())
+	return 0
+}
+
+func (m *model) step(who int) int {
+	m.clock++
+	if code := m.code(who); code != 0 {
+		return code
+	}
+	p := &m.procs[who]
+	if p.back {
+		p.back, p.inside = false, true
+	} else {
+		m.execute(who, p, p.pop())
+	}
 	return 0
 }
 

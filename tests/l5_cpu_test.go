@@ -1072,11 +1072,7 @@ func TestCpuResultsStay(t *testing.T) {
 	}
 	clear(second.Ctxs)
 	clear(second.Said)
-	for _, process := range p {
-		for _, one := range slicesOf(process) {
-			clear(one)
-		}
-	}
+	clearProgram(p)
 	clear(gaps)
 	if shownCpu(first) != want {
 		t.Error("a result has changed")
@@ -1085,13 +1081,7 @@ func TestCpuResultsStay(t *testing.T) {
 
 func TestCpuChangesNoArgument(t *testing.T) {
 	p, gaps := crowded(t)
-	p = roomy(p, list(say(1)))
-	for i, process := range p {
-		p[i] = roomy(process, num(2, 77))
-		for j, s := range p[i] {
-			p[i][j].Body, p[i][j].Else = roomy(s.Body, num(2, 78)), roomy(s.Else, num(2, 79))
-		}
-	}
+	p = roomyProgram(p)
 	gaps = roomy(gaps, 55)
 	a, w := twins()
 	a.Ctxs, w.Procs = roomy(a.Ctxs, impl.Ctx{Pc: 5}), roomy(w.Procs, impl.Proc{On: 5})
