@@ -885,7 +885,13 @@ func TestMadePlays(t *testing.T) {
 			t.Fatalf("%v, %v", p, picks)
 		}
 	}
-	for _, event := range []string{"signal 0", "signal 1", "signal 2", "held waiting", "held back", "held outside", "back", "full"} {
+	checkHappened(t, seen, "signal 0", "signal 1", "signal 2", "held waiting", "held back", "held outside", "back", "full")
+}
+
+// checkHappened makes sure that what made programs are about has been counted.
+func checkHappened(t *testing.T, seen map[string]int, events ...string) {
+	t.Helper()
+	for _, event := range events {
 		if seen[event] == 0 {
 			t.Errorf("it did not happen: %s", event)
 		}

@@ -777,13 +777,7 @@ func TestMadeRuns(t *testing.T) {
 			seen[eventOf(p, trace[i-1], trace[i])]++
 		}
 	}
-	for _, event := range []string{
-		"done", "fuel", "stuck", "8 false", "8 true", "9 0", "9 1", "9 2", "10 0", "10 1", "11 nobody", "11 free", "11 taken", "11 taken behind 1", "other",
-	} {
-		if seen[event] == 0 {
-			t.Errorf("it did not happen: %s", event)
-		}
-	}
+	checkHappened(t, seen, "done", "fuel", "stuck", "8 false", "8 true", "9 0", "9 1", "9 2", "10 0", "10 1", "11 nobody", "11 free", "11 taken", "11 taken behind 1", "other")
 }
 
 // eventOf tells what the instruction between two processors did to the queues.

@@ -834,11 +834,7 @@ func countCuts(p [][]impl.Stmt, picks []int, seen map[string]int) {
 
 func checkSeen(t *testing.T, seen map[string]int) {
 	t.Helper()
-	for _, event := range []string{"done", "stuck", "another is inside", "both are inside", "back", "kind 5 inside true", "kind 5 inside false", "kind 9 inside true"} {
-		if seen[event] == 0 {
-			t.Errorf("it did not happen: %s", event)
-		}
-	}
+	checkHappened(t, seen, "done", "stuck", "another is inside", "both are inside", "back", "kind 5 inside true", "kind 5 inside false", "kind 9 inside true")
 }
 
 // TestWholeUnderSeveralGaps tries each gap alone, and every three gaps of up to five instructions.
