@@ -992,28 +992,34 @@ func TestWholeOfMadePrograms(t *testing.T) {
 	}
 }
 
+// toTheEnd makes picks that are possible until nobody can go on, or until there are 200, and returns where they lead, too.
+func (m maker) toTheEnd(p [][]impl.Stmt) ([]int, *model) {
+	play := newModel(p)
+	var picks []int
+	for len(picks) < 200 {
+		var can []int
+		for who := range p {
+			if play.code(who) == 0 {
+				can = append(can, who)
+			}
+		}
+		if len(can) == 0 {
+			break
+		}
+		who := can[m.IntN(len(can))]
+		play.step(who)
+		picks = append(picks, who)
+	}
+	return picks, play
+}
+
 // TestWholeOfMadePlays has others cut in more often than the timer does.
 func TestWholeOfMadePlays(t *testing.T) {
 	m := maker{rand.New(rand.NewPCG(66, 14))}
 	seen := map[string]int{}
 	for range 6000 {
 		p := m.guarded(m.owner())
-		play := newModel(p)
-		var picks []int
-		for len(picks) < 200 {
-			var can []int
-			for who := range p {
-				if play.code(who) == 0 {
-					can = append(can, who)
-				}
-			}
-			if len(can) == 0 {
-				break
-			}
-			who := can[m.IntN(len(can))]
-			play.step(who)
-			picks = append(picks, who)
-		}
+		picks, play := m.toTheEnd(p)
 		if len(impl.MeanCan(p, picks)) == 0 {
 			checkWhole(t, p, picks)
 			countCuts(p, picks, seen)
