@@ -160,25 +160,35 @@ func checkPatience(t *testing.T, gaps []int, trace []impl.Cpu) {
 // checkTrace executes an instruction more each time, and returns the processors behind each and the code of the last.
 func checkTrace(t *testing.T, p [][]impl.Stmt, gaps []int) ([]impl.Cpu, int) {
 	t.Helper()
+	run := func(fuel int) (impl.Cpu, int) { return impl.CpuRun(p, gaps, fuel) }
+	return checkTraceOf(t, p, modelCodes(p), gaps, run)
+}
+
+// checkTraceOf is checkTrace for what run executes: code that is that of the program or does what it does, or, where
+// that is nil, code that comes from no program.
+func checkTraceOf(t *testing.T, p [][]impl.Stmt, codes [][]impl.Ins, gaps []int, run func(fuel int) (impl.Cpu, int)) ([]impl.Cpu, int) {
+	t.Helper()
 	var trace []impl.Cpu
-	m := newModelCpu(p, gaps)
+	m := newModelCpu(codes, gaps)
 	for fuel := range 91 {
-		c, how := impl.CpuRun(p, gaps, fuel)
+		c, how := run(fuel)
 		if how != m.how() {
 			t.Errorf("the code is %d, not %d", how, m.how())
 		}
 		checkCpu(t, c, m.cpu())
-		checkTwin(t, p, c)
+		if p != nil {
+			checkTwin(t, p, c)
+		}
 		checkQueues(t, c)
 		trace = append(trace, c)
 		if fuel > 0 {
 			checkTimer(t, gaps, trace[fuel-1], c)
 		}
 		if t.Failed() {
-			t.Fatalf("%v, gaps %v, fuel %d", p, gaps, fuel)
+			t.Fatalf("%v, %v, gaps %v, fuel %d", p, codes, gaps, fuel)
 		}
 		if how != impl.CpuFuel {
-			checkEnd(t, p, gaps, c, how)
+			checkEnd(t, p, c, how, run)
 			checkPatience(t, gaps, trace)
 			return trace, how
 		}
@@ -191,10 +201,10 @@ func checkTrace(t *testing.T, p [][]impl.Stmt, gaps []int) ([]impl.Cpu, int) {
 }
 
 // checkEnd makes sure that where the processor ends nobody can go on, and that more fuel is of no use.
-func checkEnd(t *testing.T, p [][]impl.Stmt, gaps []int, c impl.Cpu, how int) {
+func checkEnd(t *testing.T, p [][]impl.Stmt, c impl.Cpu, how int, run func(fuel int) (impl.Cpu, int)) {
 	t.Helper()
 	checkCan(t, p, c.Picks)
-	again, code := impl.CpuRun(p, gaps, 90)
+	again, code := run(90)
 	if code != how {
 		t.Errorf("the code is %d with all the fuel, and %d without", code, how)
 	}
@@ -758,6 +768,15 @@ func TestAllShortGaps(t *testing.T) {
 	}
 }
 
+// gaps makes gaps, most of which are short.
+func (m maker) gaps() []int {
+	gaps := make([]int, 1+m.IntN(20))
+	for i := range gaps {
+		gaps[i] = 1 + m.IntN(1+m.IntN(12))
+	}
+	return gaps
+}
+
 // TestMadeRuns executes made programs, and counts that what the promises are about does happen.
 func TestMadeRuns(t *testing.T) {
 	m := maker{rand.New(rand.NewPCG(5, 14))}
@@ -767,11 +786,7 @@ func TestMadeRuns(t *testing.T) {
 		for range 1 + m.IntN(3) {
 			p = append(p, m.process())
 		}
-		gaps := make([]int, 1+m.IntN(20))
-		for i := range gaps {
-			gaps[i] = 1 + m.IntN(1+m.IntN(12))
-		}
-		trace, how := checkTrace(t, p, gaps)
+		trace, how := checkTrace(t, p, m.gaps())
 		seen[[]string{"done", "fuel", "stuck"}[how]]++
 		for i := 1; i < len(trace); i++ {
 			seen[eventOf(p, trace[i-1], trace[i])]++

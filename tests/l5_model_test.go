@@ -35,10 +35,19 @@ type modelCtx struct {
 	since  int
 }
 
-func newModelCpu(p [][]impl.Stmt, gaps []int) *modelCpu {
+// modelCodes is the code of each process.
+func modelCodes(p [][]impl.Stmt) [][]impl.Ins {
+	var codes [][]impl.Ins
+	for _, process := range p {
+		codes = append(codes, append(modelCode(process), impl.Ins{Op: impl.InsEnd}))
+	}
+	return codes
+}
+
+func newModelCpu(codes [][]impl.Ins, gaps []int) *modelCpu {
 	m := &modelCpu{gaps: gaps}
-	for who, process := range p {
-		m.procs = append(m.procs, modelCtx{code: append(modelCode(process), impl.Ins{Op: impl.InsEnd}), room: -1})
+	for who, code := range codes {
+		m.procs = append(m.procs, modelCtx{code: code, room: -1})
 		m.moveTo(who, "ready")
 	}
 	return m

@@ -691,11 +691,7 @@ func TestFinalOfMadePrograms(t *testing.T) {
 		seen[fmt.Sprint(len(p), " processes, stuck ", stuck)]++
 		seen[fmt.Sprint("ends: ", min(len(ends), 3))]++
 		for range 6 {
-			gaps := make([]int, 1+m.IntN(20))
-			for i := range gaps {
-				gaps[i] = 1 + m.IntN(1+m.IntN(12))
-			}
-			seen[[]string{"done", "fuel", "stuck"}[checkFinal(t, p, gaps, 90-m.IntN(2)*m.IntN(91), ends)]]++
+			seen[[]string{"done", "fuel", "stuck"}[checkFinal(t, p, m.gaps(), 90-m.IntN(2)*m.IntN(91), ends)]]++
 			seen["play"] += oneIf(checkPlayed(t, m, p, ends) != "")
 		}
 		if t.Failed() {
