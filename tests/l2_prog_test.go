@@ -474,23 +474,25 @@ func TestLongTexts(t *testing.T) {
 	}
 }
 
-func TestInvalidTexts(t *testing.T) {
-	checkUnread(t,
-		// Numbers that are not in their form, or none.
-		"num 0 01", "num 00 1", "num 0 00", "num 0 -0", "num -0 1", "num 0 +1", "num +0 1", "num 0 -01", "num 0 --1", "num 0 1.0", "num 0 1e1", "num 0 0x1", "num 0 1_0", "num 0 x", "num x 0", "num 0 -", "num 0 ٣",
-		"add 0 01", "load 00 0", "store 0 +0", "say -0", "if 00 [ ] [ ]", "while +0 [ ]", "in 01 [ ]", "signal 00", "in 0 [ wait 00 ]",
-		// Numbers past their ends.
-		"num 0 1000", "num 0 -1000", "num 3 1", "num -1 1", "add 3 0", "add 0 3", "sub 0 -1", "load 3 0", "load 0 3", "store 3 0", "store 0 3", "say 3", "say -1", "if 3 [ ] [ ]", "while 3 [ ]", "in 2 [ ]", "in -1 [ ]", "signal 2", "signal -1", "in 0 [ wait 2 ]", "in 0 [ wait -1 ]",
-		"num 0 9223372036854775807", "num 0 9223372036854775808", "num 0 18446744073709551616", "num 0 -9223372036854775809", "num 18446744073709551616 1", "num 0 18446744073709551617",
-		// Spaces, and what is none.
-		"say  0", " say 0", "say 0 ", "say 0  yield", "  ", "say\t0", "say 0\n", "\nsay 0", "say 0\nyield", "say 0\tyield", "say 0\r", "say\u00a00", "say 0\x00", "\x00", "in 0 [ yield  ]", "in 0  [ ]", "in 0 [ ] ", "if 0 [ ]  [ ]", "in 0 [\t]", "in 0 [ ]\n", "yield ", " yield", "yield\v", "say0",
-		// Brackets too many or too few.
-		"in 0 [", "in 0 ]", "in 0", "in 0 [ ] ]", "in 0 [ [ ]", "in 0 [ [ ] ]", "in 0 ] [", "in 0 [ yield", "in 0 yield ]", "in 0 yield", "if 0 [ ]", "if 0 [ ] [", "if 0 [ ] ]", "if 0 [ ] [ ] ]", "if 0 [ ] [ ] [ ]", "if 0 [ [ ] [ ]", "if 0", "if 0 [", "if 0 [ ] yield", "while 0 [ ] [ ]", "while 0 [", "while 0", "while 0 ]", "yield ]", "] yield", "[ yield ]", "in 0 ( )", "in 0[ ]", "in 0 [ yield]", "in 0 [yield ]", "if 0 [ ][ ]", "say [ ]", "say 0 [ ]", "yield [ ]",
-		// Words too few or too many.
-		"num", "num 0", "add", "add 0", "load", "load 0", "store 1", "say", "if", "while", "in", "in 0 [ wait", "in 0 [ wait ]", "in 0 [ wait 0", "signal", "yield say", "yield num 0", "yield 0", "num 0 1 2", "add 0 1 2", "say 0 0", "signal 0 0", "while 0 1 [ ]", "in 0 0 [ ]", "if [ ] [ ]", "0", "0 yield",
-		// Words that are none.
-		"fly", "Yield", "YIELD", "Num 0 1", "do 0 0 1", "leave 0", "enter 0", "end", "jump 0", "yields", "yiel", "yield,yield", "sáy 0", "\xff", "yield \xff", "say \xff", "nothing", "in 0 [ fly ]", "in 0 [ leave 0 ]", "in 0 [ ] leave 0")
+// unreadTexts are not those of any process.
+var unreadTexts = []string{
+	// Numbers that are not in their form, or none.
+	"num 0 01", "num 00 1", "num 0 00", "num 0 -0", "num -0 1", "num 0 +1", "num +0 1", "num 0 -01", "num 0 --1", "num 0 1.0", "num 0 1e1", "num 0 0x1", "num 0 1_0", "num 0 x", "num x 0", "num 0 -", "num 0 ٣",
+	"add 0 01", "load 00 0", "store 0 +0", "say -0", "if 00 [ ] [ ]", "while +0 [ ]", "in 01 [ ]", "signal 00", "in 0 [ wait 00 ]",
+	// Numbers past their ends.
+	"num 0 1000", "num 0 -1000", "num 3 1", "num -1 1", "add 3 0", "add 0 3", "sub 0 -1", "load 3 0", "load 0 3", "store 3 0", "store 0 3", "say 3", "say -1", "if 3 [ ] [ ]", "while 3 [ ]", "in 2 [ ]", "in -1 [ ]", "signal 2", "signal -1", "in 0 [ wait 2 ]", "in 0 [ wait -1 ]",
+	"num 0 9223372036854775807", "num 0 9223372036854775808", "num 0 18446744073709551616", "num 0 -9223372036854775809", "num 18446744073709551616 1", "num 0 18446744073709551617",
+	// Spaces, and what is none.
+	"say  0", " say 0", "say 0 ", "say 0  yield", "  ", "say\t0", "say 0\n", "\nsay 0", "say 0\nyield", "say 0\tyield", "say 0\r", "say\u00a00", "say 0\x00", "\x00", "in 0 [ yield  ]", "in 0  [ ]", "in 0 [ ] ", "if 0 [ ]  [ ]", "in 0 [\t]", "in 0 [ ]\n", "yield ", " yield", "yield\v", "say0",
+	// Brackets too many or too few.
+	"in 0 [", "in 0 ]", "in 0", "in 0 [ ] ]", "in 0 [ [ ]", "in 0 [ [ ] ]", "in 0 ] [", "in 0 [ yield", "in 0 yield ]", "in 0 yield", "if 0 [ ]", "if 0 [ ] [", "if 0 [ ] ]", "if 0 [ ] [ ] ]", "if 0 [ ] [ ] [ ]", "if 0 [ [ ] [ ]", "if 0", "if 0 [", "if 0 [ ] yield", "while 0 [ ] [ ]", "while 0 [", "while 0", "while 0 ]", "yield ]", "] yield", "[ yield ]", "in 0 ( )", "in 0[ ]", "in 0 [ yield]", "in 0 [yield ]", "if 0 [ ][ ]", "say [ ]", "say 0 [ ]", "yield [ ]",
+	// Words too few or too many.
+	"num", "num 0", "add", "add 0", "load", "load 0", "store 1", "say", "if", "while", "in", "in 0 [ wait", "in 0 [ wait ]", "in 0 [ wait 0", "signal", "yield say", "yield num 0", "yield 0", "num 0 1 2", "add 0 1 2", "say 0 0", "signal 0 0", "while 0 1 [ ]", "in 0 0 [ ]", "if [ ] [ ]", "0", "0 yield",
+	// Words that are none.
+	"fly", "Yield", "YIELD", "Num 0 1", "do 0 0 1", "leave 0", "enter 0", "end", "jump 0", "yields", "yiel", "yield,yield", "sáy 0", "\xff", "yield \xff", "say \xff", "nothing", "in 0 [ fly ]", "in 0 [ leave 0 ]", "in 0 [ ] leave 0",
 }
+
+func TestInvalidTexts(t *testing.T) { checkUnread(t, unreadTexts...) }
 
 func TestInvalidLists(t *testing.T) {
 	for _, s := range []impl.Stmt{
